@@ -2,8 +2,11 @@
 package rollback
 
 import (
+	"errors"
+
 	"rollback/api"
 	"rollback/game"
+	"rollback/packet"
 )
 
 const minPlayers = 2
@@ -45,10 +48,25 @@ func Digest(memory []byte) (uint32, error) {
 }
 
 // Pack writes a packet (P5).
-func Pack(p api.Packet) ([]byte, error) { return nil, nil }
+func Pack(p api.Packet) ([]byte, error) {
+	b, err := packet.Write(p)
+	return b, kindOf(err)
+}
 
 // Unpack reads a packet (P5).
-func Unpack(b []byte) (api.Packet, error) { return api.Packet{}, nil }
+func Unpack(b []byte) (api.Packet, error) {
+	p, err := packet.Read(b)
+	return p, kindOf(err)
+}
+
+// kindOf takes the bare kind out of an error: a caller may compare what a call answers by ==.
+func kindOf(err error) error {
+	var kind api.Kind
+	if errors.As(err, &kind) {
+		return kind
+	}
+	return err
+}
 
 // Net is peers that play, and packets under way.
 type Net struct{}
