@@ -1,5 +1,10 @@
 package game
 
+import "rollback/api"
+
+// Inputs is one for each player that a frame can have, as a value; 0 for who does not play.
+type Inputs [api.MaxPlayers]byte
+
 // Next gives the memory behind one more frame; inputs has one for each player.
 func (m Memory) Next(inputs []byte) Memory {
 turns:

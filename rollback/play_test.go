@@ -206,13 +206,11 @@ func (g *modelGame) act(k int, input byte) {
 }
 
 func (g *modelGame) memory() []byte {
-	cells := map[[2]int]byte{}
+	m := memoryOf(g.ships, nil)
 	for y, row := range g.cells {
-		for x, number := range row {
-			cells[[2]int{x, y}] = number
-		}
+		copy(m[16*y:], row[:])
 	}
-	return memoryOf(g.ships, cells)
+	return m
 }
 
 func TestPlayLikeTheModel(t *testing.T) {

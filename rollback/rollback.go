@@ -11,9 +11,14 @@ import (
 
 const minPlayers = 2
 
+// canPlay tells whether a game can have so many players.
+func canPlay(players int) bool {
+	return players >= minPlayers && players <= api.MaxPlayers
+}
+
 // Play plays a game from its beginning (P3).
 func Play(players int, inputs [][]byte) ([]byte, error) {
-	if players < minPlayers || players > api.MaxPlayers {
+	if !canPlay(players) {
 		return nil, api.ErrPlayer
 	}
 	if !playable(players, inputs) {
@@ -67,33 +72,3 @@ func kindOf(err error) error {
 	}
 	return err
 }
-
-// Net is peers that play, and packets under way.
-type Net struct{}
-
-// New makes one (P6).
-func New(c api.Config) (*Net, error) { return &Net{}, nil }
-
-// Advance lets a peer go on by a frame, with its player's input (P8).
-func (n *Net) Advance(p int, input byte) error { return nil }
-
-// Tick lets time pass (P10).
-func (n *Net) Tick() {}
-
-// Hand hands a peer a packet (P9).
-func (n *Net) Hand(p int, b []byte) error { return nil }
-
-// Memory tells the game as a peer sees it (P11).
-func (n *Net) Memory(p int) ([]byte, error) { return nil, nil }
-
-// Peer tells how a peer stands (P11).
-func (n *Net) Peer(p int) (api.Peer, error) { return api.Peer{}, nil }
-
-// Sum tells the sum of a state that a peer still has (P11).
-func (n *Net) Sum(p int, frame int) (uint32, error) { return 0, nil }
-
-// Flights tells the packets under way (P10).
-func (n *Net) Flights() []api.Flight { return nil }
-
-// Now tells the time (P10).
-func (n *Net) Now() int { return 0 }
